@@ -419,16 +419,20 @@ func TestHowDeep(t *testing.T) {
 				wantExp(t, what+" below "+d.what+" and "+d2.what, d.wrap(d2.wrap(e)), deep+d.deep+d2.deep <= 12)
 			}
 		}
-		// A Dec is 1 deep, its body 2, one of its Where 2, that one's body 3.
+		// Decs alone are 0 deep, a body of theirs 1, a Dec of a Where 1, that one's body 2.
 		for _, c := range []struct {
 			what string
 			l    []impl.Dec
 			deep int
 		}{
-			{" in a Dec", decs(dec("a", e)), 1},
-			{" in the last Dec", decs(dec("a", num(1)), dec("b", e)), 1},
-			{" in a Where", decs(with(dec("a", num(1)), dec("b", e))), 2},
-			{" in a Where's Where", decs(with(dec("a", num(1)), with(dec("b", num(1)), dec("c", e)))), 3},
+			{" in a Dec", decs(dec("a", e)), 0},
+			{" in the last Dec", decs(dec("a", num(1)), dec("b", e)), 0},
+			{" in a Where", decs(with(dec("a", num(1)), dec("b", e))), 1},
+			{" in the last Dec of a Where", decs(with(dec("a", num(1)), dec("b", num(1)), dec("c", e))), 1},
+			{" in a Where's Where", decs(with(dec("a", num(1)), with(dec("b", num(1)), dec("c", e)))), 2},
+			{" in a let of a Dec", decs(dec("a", let(num(1), dec("b", e)))), 2},
+			{" in a let of a Where", decs(with(dec("a", num(1)), dec("b", let(num(1), dec("c", e))))), 3},
+			{" in a Where of a let of a Dec", decs(dec("a", let(num(1), with(dec("b", num(1)), dec("c", e))))), 3},
 		} {
 			wantDecs(t, what+c.what, c.l, deep+c.deep <= 12)
 			wantProg(t, what+c.what, impl.Prog{Decs: c.l}, deep+c.deep <= 12)
@@ -446,10 +450,10 @@ func TestHowDeep(t *testing.T) {
 		wantExp(t, "12 deep by "+d.what, e, true)
 		wantExp(t, "13 deep by "+d.what, d.wrap(e), false)
 	}
-	// By Wheres alone: the body of the n-th Dec is n + 1 deep.
+	// By Wheres alone: the body of the n-th Dec is n deep, and of a let n + 2.
 	for n := 1; n <= 15; n++ {
-		wantDecs(t, strconv.Itoa(n)+" Wheres", decs(wheres(n)), n+1 <= 12)
-		wantProg(t, strconv.Itoa(n)+" Wheres", impl.Prog{Decs: decs(wheres(n))}, n+1 <= 12)
+		wantDecs(t, strconv.Itoa(n)+" Wheres", decs(wheres(n)), n <= 12)
+		wantProg(t, strconv.Itoa(n)+" Wheres", impl.Prog{Decs: decs(wheres(n))}, n <= 12)
 		wantExp(t, strconv.Itoa(n)+" Wheres", let(num(1), wheres(n)), n+2 <= 12)
 	}
 }
