@@ -753,16 +753,137 @@ func TestUnifyOfWhatGrows(t *testing.T) {
 	}
 }
 
-// What is of no kind is not the same as any, not even as itself; a TVar may be known as it, unless that means unknown.
+// noKinds are types of kinds that are none, no two of them the same.
+func noKinds() []impl.Ty {
+	l := []impl.Ty{}
+	for _, k := range []int{6, 7, -1, 1000, math.MaxInt, math.MinInt} {
+		l = append(l, impl.Ty{K: k}, impl.Ty{K: k, S: "x"}, impl.Ty{K: k, N: 3}, impl.Ty{K: k, S: "x", N: 3}, impl.Ty{K: k, N: -1}, impl.Ty{K: k, N: 500},
+			tyList(k, tyInt()), tyList(k, tyInt(), tyData("L")), tyList(k, tyBool(), tyData("L")), tyList(k, impl.Ty{K: k}))
+	}
+	return l
+}
+
+// wantSameOrNot is handed types in which no TVar is unknown: nothing more can be known, whether they are the same or not.
+func wantSameOrNot(t *testing.T, same bool, l []impl.Ty, a, b impl.Ty) {
+	t.Helper()
+	if !same {
+		wantNotUnified(t, l, a, b)
+		return
+	}
+	wantUnifiedTable(t, l, a, b, l)
+	checkUnified(t, l, a, b)
+}
+
+// What is of no kind is the same as what is the same in all its parts, and as nothing else, wherever it stands.
 func TestUnifyOfNoKind(t *testing.T) {
 	i := tyInt()
-	for _, bad := range []impl.Ty{{}, {K: 6}, {K: -1}, {K: math.MaxInt}, {S: "L"}, tyList(0, i, i), tyList(6, i), tyList(impl.TFun), tyList(impl.TFun, i), tyList(impl.TFun, i, i, i)} {
-		for _, b := range append(tys("Int", "Bool", "L", "Int -> Int"), bad) {
+	others := append(noKinds(), tys("Int", "Bool", "L", "Int -> Int", "Int -> L")...)
+	for _, a := range noKinds() {
+		for _, b := range others {
+			same := impl.SameTy(a, b)
+			for _, l := range [][]impl.Ty{nil, {}, table("Int;?;L"), {a, b}} {
+				wantSameOrNot(t, same, l, a, b)
+				wantSameOrNot(t, same, l, b, a)
+				wantSameOrNot(t, same, l, tyFun(i, a), tyFun(i, b))
+				wantSameOrNot(t, same, l, tyFun(a, i), tyFun(b, i))
+				wantSameOrNot(t, same, l, tyFun(b, a), tyFun(a, b))
+				wantSameOrNot(t, same, l, tyFun(tyFun(a, i), a), tyFun(tyFun(b, i), a))
+				wantNotUnified(t, l, tyFun(a, i), tyFun(b, tyBool()))
+			}
+			// Known as it, on either side and on both, and one behind the other.
+			wantSameOrNot(t, same, []impl.Ty{a}, tyVar(0), b)
+			wantSameOrNot(t, same, []impl.Ty{a}, b, tyVar(0))
+			wantSameOrNot(t, same, []impl.Ty{a, b}, tyVar(0), tyVar(1))
+			wantSameOrNot(t, same, []impl.Ty{tyVar(1), a}, tyFun(tyVar(0), i), tyFun(b, i))
+			wantSameOrNot(t, same, []impl.Ty{tyFun(i, tyVar(1)), a}, tyVar(0), tyFun(i, b))
+			// Known as it just now.
+			if same {
+				wantUnifiedTable(t, nil, tyFun(tyVar(0), tyVar(0)), tyFun(a, b), []impl.Ty{a})
+				wantUnifiedTable(t, nil, tyFun(a, tyVar(0)), tyFun(tyVar(0), b), []impl.Ty{a})
+			} else {
+				wantNotUnified(t, nil, tyFun(tyVar(0), tyVar(0)), tyFun(a, b))
+				wantNotUnified(t, nil, tyFun(a, tyVar(0)), tyFun(tyVar(0), b))
+			}
+		}
+		wantUnifiedTable(t, nil, a, tyVar(0), []impl.Ty{a})
+		wantUnifiedTable(t, nil, tyVar(0), a, []impl.Ty{a})
+		wantUnifiedTable(t, table("?;Int"), tyFun(a, tyVar(0)), tyFun(a, tyVar(1)), table("Int;Int"))
+	}
+}
+
+// The parts of what is of no kind are made the same like all others, in their order.
+func TestUnifyOfPartsOfNoKind(t *testing.T) {
+	of := func(texts ...string) impl.Ty { return tyList(7, tys(texts...)...) }
+	wantUnified(t, nil, of("t0"), of("t0"), "")
+	wantUnified(t, nil, of("t0"), of("Int"), "Int")
+	wantUnified(t, nil, of("t0", "t1"), of("t1", "Int"), "Int; Int")
+	wantUnified(t, table("?;Int"), of("t0 -> L"), of("t1 -> L"), "Int; Int")
+	for _, c := range [][2]impl.Ty{
+		{of("t0"), of("t0", "Int")}, {of("t0"), of()}, {of("t0", "t0"), of("Int", "L")}, {of("t0"), of("t0 -> Int")}, {of("t0", "Int"), of("L", "Bool")}, {of("t0"), tyList(6, tyInt())},
+		{of("t500"), of("t500")}, {of("t-1"), of("t-1")}, {of("t500"), of("Int")},
+	} {
+		wantNotUnified(t, nil, c[0], c[1])
+		wantNotUnified(t, nil, c[1], c[0])
+	}
+	// There is no end to it.
+	wantNotUnified(t, []impl.Ty{of("t0")}, tyVar(0), tyVar(0))
+	wantUnified(t, nil, of(slices.Repeat([]string{"Int"}, 19999)...), of(slices.Repeat([]string{"Int"}, 19999)...), "")
+	wantNotUnified(t, nil, of(slices.Repeat([]string{"Int"}, 20000)...), of(slices.Repeat([]string{"Int"}, 20000)...))
+}
+
+// ofNoKind turns some parts into such as are of a kind that is none, the same of the same kind.
+func ofNoKind(r *rand.Rand, t impl.Ty) impl.Ty {
+	for i, x := range t.L {
+		t.L[i] = ofNoKind(r, x)
+	}
+	if t.K != impl.TVar && r.Intn(3) == 0 {
+		t.K = -t.K
+		t.N = r.Intn(2)
+	}
+	return t
+}
+
+// P9 of what is of no kind, against what is told by hand.
+func TestTypesOfNoKindMadeTheSameAreTheSame(t *testing.T) {
+	r := rand.New(rand.NewSource(95))
+	made, not := 0, 0
+	for range 8000 {
+		vars := 1 + r.Intn(5)
+		l, a := anyTable(r, vars), ofNoKind(r, anyTy(r, 3, vars))
+		b := impl.Known(nil, a)
+		if r.Intn(2) == 0 {
+			b = ofNoKind(r, anyTy(r, 3, vars))
+		}
+		for n := range l {
+			l[n] = ofNoKind(r, l[n])
+		}
+		if sizeOfKnown(l, a, 400)+sizeOfKnown(l, b, 400) > 400 {
+			continue
+		}
+		if checkUnifyByHand(t, l, a, b) {
+			made++
+		} else {
+			not++
+		}
+	}
+	if made < 3000 || not < 1000 {
+		t.Errorf("%d were made the same, %d not", made, not)
+	}
+}
+
+// What is of K 0, or a TFun of more or less than two parts, is not the same as any, not even as itself; a TVar may be known
+// as it, unless that means unknown.
+func TestUnifyOfWhatIsTheSameAsNothing(t *testing.T) {
+	i := tyInt()
+	for _, bad := range []impl.Ty{{}, {S: "L"}, {N: 3}, tyList(0, i, i), tyList(impl.TFun), tyList(impl.TFun, i), tyList(impl.TFun, i, i, i)} {
+		for _, b := range append(tys("Int", "Bool", "L", "Int -> Int", "?7"), bad) {
 			wantNotUnified(t, nil, bad, b)
 			wantNotUnified(t, nil, b, bad)
 			wantNotUnified(t, nil, tyFun(i, bad), tyFun(i, b))
+			wantNotUnified(t, nil, tyFun(bad, i), tyFun(b, i))
 			wantNotUnified(t, nil, tyFun(tyVar(0), tyVar(0)), tyFun(bad, b))
 			wantNotUnified(t, table("?;Int"), tyFun(b, tyVar(0)), tyFun(bad, tyVar(1)))
+			wantNotUnified(t, nil, tyList(7, bad), tyList(7, b))
 		}
 		if bad.K == 0 {
 			wantNotUnified(t, nil, bad, tyVar(0))
@@ -771,14 +892,10 @@ func TestUnifyOfNoKind(t *testing.T) {
 		} else {
 			wantUnifiedTable(t, nil, bad, tyVar(0), []impl.Ty{bad})
 			wantUnifiedTable(t, nil, tyVar(0), bad, []impl.Ty{bad})
+			wantNotUnified(t, []impl.Ty{bad}, tyVar(0), bad)
 		}
 		wantUnifiedTable(t, nil, tyVar(0), tyFun(i, bad), []impl.Ty{tyFun(i, bad)})
 		wantUnifiedTable(t, nil, tyFun(bad, i), tyVar(0), []impl.Ty{tyFun(bad, i)})
-	}
-	// TFun of more or less than two is not the same as one of two.
-	for _, bad := range []impl.Ty{tyList(impl.TFun), tyList(impl.TFun, i), tyList(impl.TFun, i, i, i)} {
-		wantNotUnified(t, nil, bad, tyFun(i, i))
-		wantNotUnified(t, nil, tyFun(i, i), bad)
 	}
 }
 
