@@ -1,8 +1,10 @@
 package tests
 
 import (
+	"runtime/debug"
 	"slices"
 	"strconv"
+	"strings"
 	"testing"
 
 	"loop.example/g00471/impl"
@@ -201,6 +203,32 @@ func TestNoListsKnownAgainAndAgainShareMemory(t *testing.T) {
 	}
 }
 
+// Of just over 1 << 28 parts: it needs some 16 gigabytes.
+func TestNoListsOfSomeGigabytesShareMemory(t *testing.T) {
+	const places, wide = 450, 600000
+	defer debug.FreeOSMemory()
+	l := slices.Repeat([]impl.Ty{tyList(impl.TInt, slices.Repeat(tys("Int"), wide)...)}, places)
+	got, ok := impl.Unify(l, tyInt(), tyInt())
+	if !ok {
+		t.Error("Unify = false")
+	}
+	wantOwn(t, "a wide list at 450 places: Unify", places*(1+wide), got, l, l)
+}
+
+// A text that stands at many places takes no more memory than it is long.
+func TestLongTextsOfTypes(t *testing.T) {
+	long := strings.Repeat("L", 1000000)
+	l := slices.Repeat(tys("Int"), 20000)
+	for i := range l {
+		l[i] = tyData(long)
+	}
+	known := impl.Known(nil, tyList(9, l...))
+	out, ok := impl.Unify(l, tyInt(), tyInt())
+	if len(known.L) != len(l) || len(out) != len(l) || !ok || known.L[19999].S != long || out[0].S != long || out[19999].S != long {
+		t.Error("a long text at many places is another one")
+	}
+}
+
 // writeAll writes into each part once, also of lists that are shared.
 func writeAll(l []impl.Ty) {
 	for left := [][]impl.Ty{l}; len(left) > 0; {
@@ -228,13 +256,13 @@ func timesDoubled(times int) impl.Ty {
 func TestTypesThatCannotBeHeld(t *testing.T) {
 	ring := tys("Int", "t1", "L")
 	ring[1].L = ring
-	chain := endingWith(45000, tyInt())
-	large := timesDoubled(25)
+	chain := endingWith(500000, tyInt())
+	large := timesDoubled(28)
 	for what, c := range map[string]struct {
 		l []impl.Ty
 		x impl.Ty
 	}{
-		"twice, 28 times": {nil, timesDoubled(28)}, "twice, 64 times": {nil, timesDoubled(64)}, "twice, 300 times": {nil, timesDoubled(300)},
+		"twice, 31 times": {nil, timesDoubled(31)}, "twice, 64 times": {nil, timesDoubled(64)}, "twice, 300 times": {nil, timesDoubled(300)},
 		"one that could be held, at nine places": {nil, tyList(9, slices.Repeat([]impl.Ty{large}, 9)...)},
 		"a chain, again and again":               {[]impl.Ty{tyFun(tyVar(0), chain)}, tyVar(0)},
 		"a list that stands in itself":           {nil, tyFun(timesDoubled(3), tyList(9, ring...))},
