@@ -4,41 +4,45 @@ import (
 	"fmt"
 	"math/rand"
 	"regexp"
+	"strings"
 	"testing"
 
 	"loop.example/g00471/impl"
 )
 
-// resTextByHand answers the text of r, and how deep it is: from the bottom up, and with each part in brackets at first.
-func resTextByHand(r impl.Res) (string, int) {
-	text, deep, told := headByHand(r), 1, true
+// resTextByHand answers the text of r, how deep it is, and whether it is told: from the bottom up, and with each part in
+// brackets unless it needs none.
+func resTextByHand(r impl.Res) (text string, deep int, told bool) {
+	text, told = headByHand(r)
+	deep = 1
 	for _, part := range r.L {
-		below, partDeep := resTextByHand(part)
+		below, partDeep, partTold := resTextByHand(part)
 		deep = max(deep, partDeep+1)
 		if r.K != impl.RCon {
 			continue
 		}
-		told = told && below != ""
-		if len(part.L) == 0 && below != "" && below[0] != '-' {
+		told = told && partTold
+		if len(part.L) == 0 && !strings.HasPrefix(below, "-") {
 			text += " " + below
 		} else {
 			text += " (" + below + ")"
 		}
 	}
 	if !told || deep > 6 {
-		return "", deep
+		return "", deep, false
 	}
-	return text, deep
+	return text, deep, true
 }
 
-func headByHand(r impl.Res) string {
+func headByHand(r impl.Res) (text string, told bool) {
 	if r.K == impl.RNum && r.N*r.N < 1000000000*1000000000 && r.N < 1<<31 && r.N > -1<<31 {
-		return fmt.Sprint(r.N)
+		return fmt.Sprint(r.N), true
 	}
 	if r.K == impl.RCon {
-		return r.S
+		return r.S, true
 	}
-	return map[int]string{impl.RFun: "<function>", impl.RFail: "<fail>", impl.RHole: "<hole>", impl.RFuel: "<fuel>", impl.RMore: "..."}[r.K]
+	text, told = map[int]string{impl.RFun: "<function>", impl.RFail: "<fail>", impl.RHole: "<hole>", impl.RFuel: "<fuel>", impl.RMore: "..."}[r.K]
+	return text, told
 }
 
 // anyRes is at most so deep. Now and then it is of no kind, out of bounds, or has more in it than its kind tells.
@@ -59,6 +63,8 @@ func anyRes(g *rand.Rand, deep int) impl.Res {
 		r.N = []int{1000000000, -1000000000, 1 << 62, -1 << 63}[g.Intn(4)]
 	} else if odd == 2 {
 		r.S = []string{"", "-", "-x", "a b", "("}[g.Intn(5)]
+	} else if odd < 8 {
+		r = resCon("")
 	}
 	if deep > 1 && (r.K == impl.RCon || g.Intn(20) == 0) {
 		for range g.Intn(4) {
@@ -72,7 +78,7 @@ func anyRes(g *rand.Rand, deep int) impl.Res {
 func checkResByHand(t *testing.T, r impl.Res) (string, int) {
 	t.Helper()
 	text, deep := impl.ResText(r), impl.Depth(r)
-	wantText, wantDeep := resTextByHand(r)
+	wantText, wantDeep, _ := resTextByHand(r)
 	if text != wantText || deep != wantDeep {
 		t.Fatalf("of %+v the text is %q, and it is %d deep; by hand %q and %d", r, text, deep, wantText, wantDeep)
 	}

@@ -98,9 +98,63 @@ func TestResTextOfOthers(t *testing.T) {
 		}
 	}
 	wantNothingWherever(t, impl.Res{})
-	// Of a Con without a name and without parts there is nothing, either.
-	wantNothingWherever(t, resCon(""))
-	wantNothingWherever(t, impl.Res{K: impl.RCon, N: 7, L: []impl.Res{}})
+}
+
+// A Con without a name has a text: the empty name, and its parts.
+func TestResTextOfConsWithoutAName(t *testing.T) {
+	none, one, less := resCon(""), resNum(1), resNum(-5)
+	wantResText(t,
+		// By itself.
+		resTold{none, ""}, resTold{resCon("", none), " "}, resTold{resCon("", none, none), "  "}, resTold{resCon("", one), " 1"}, resTold{resCon("", less), " (-5)"}, resTold{resCon("", resCon("A")), " A"}, resTold{resCon("", resCon("A", one)), " (A 1)"},
+		// The first, a middle and the last part.
+		resTold{resCon("A", none), "A "}, resTold{resCon("A", none, none), "A  "}, resTold{resCon("A", none, none, none), "A   "}, resTold{resCon("A", none, one), "A  1"}, resTold{resCon("A", one, none), "A 1 "}, resTold{resCon("A", one, none, resCon("B")), "A 1  B"}, resTold{resCon("A", none, less), "A  (-5)"}, resTold{resCon("A", less, none), "A (-5) "},
+		// With parts it has brackets, like any other.
+		resTold{resCon("A", resCon("", none)), "A ( )"}, resTold{resCon("A", resCon("", one)), "A ( 1)"}, resTold{resCon("A", resCon("", less, none), one), "A ( (-5) ) 1"}, resTold{resCon("A", one, resCon("", none, one), resCon("B")), "A 1 (  1) B"}, resTold{resCon("A", one, resCon("", none)), "A 1 ( )"},
+		// Deeper down.
+		resTold{resCon("A", resCon("B", none)), "A (B )"}, resTold{resCon("A", resCon("B", none, one), none), "A (B  1) "}, resTold{resCon("", resCon("", none)), " ( )"}, resTold{resCon("", resCon("", resCon("", none))), " ( ( ))"}, resTold{resCon("", resCon("B", none)), " (B )"}, resTold{resCon("A", resCon("B", resCon("C", one, none, one))), "A (B (C 1  1))"},
+		// What the kind does not tell is not told.
+		resTold{impl.Res{K: impl.RCon, N: 7, L: []impl.Res{}}, ""}, resTold{resCon("A", impl.Res{K: impl.RCon, N: 7, L: []impl.Res{}}), "A "}, resTold{resCon("A", impl.Res{K: impl.RFun, L: []impl.Res{none}}), "A (<function>)"},
+	)
+}
+
+// Beside what there is nothing of, there is nothing of the whole.
+func TestResTextOfNoNameBesideNothing(t *testing.T) {
+	empty := []impl.Res{resCon(""), resCon("", resCon("")), resCon("", resNum(1)), resCon("B", resCon(""))}
+	for _, none := range []impl.Res{{}, {K: 8}, {K: -1, S: "x"}, resNum(1000000000), resNum(-1000000000), resNum(math.MinInt), resNum(math.MaxInt)} {
+		wantNothingWherever(t, none)
+		wantNothingWherever(t, resCon("", none))
+		for _, e := range empty {
+			wantResText(t, resTold{resCon("A", e, none), ""}, resTold{resCon("A", none, e), ""}, resTold{resCon("", e, none), ""}, resTold{resCon("", none, e), ""}, resTold{resCon("A", e, none, e), ""}, resTold{resCon("A", none, e, none), ""})
+			wantResText(t, resTold{resCon("A", e, resCon("", none)), ""}, resTold{resCon("A", resCon("", none), e), ""}, resTold{resCon("", resCon("", e, none)), ""}, resTold{resCon("A", e, resCon("B", resCon("", none, e))), ""})
+		}
+	}
+}
+
+// A Con without a name is as deep as any other: the deepest one, those around it, and all of them.
+func TestResTextOfNoNameDeep(t *testing.T) {
+	wantResText(t,
+		resTold{nestedIn("S", 6, ""), "S (S (S (S (S ))))"}, resTold{nestedIn("S", 7, ""), ""}, resTold{nestedIn("", 6, "S"), " ( ( ( ( S))))"}, resTold{nestedIn("", 7, "S"), ""}, resTold{nestedIn("", 6, ""), " ( ( ( ( ))))"}, resTold{nestedIn("", 7, ""), ""}, resTold{nestedIn("", 2, ""), " "},
+	)
+	for deep := 1; deep <= 9; deep++ {
+		for _, name := range []string{"", "S"} {
+			for _, end := range []string{"", "E"} {
+				r := nestedIn(name, deep, end)
+				text, _, _ := resTextByHand(r)
+				wantResText(t, resTold{r, text})
+				wantDepth(t, r, deep)
+				wantDeepAnywhere(t, r)
+			}
+		}
+	}
+}
+
+// nestedIn is so deep: a Con end in those of the name.
+func nestedIn(name string, deep int, end string) impl.Res {
+	r := resCon(end)
+	for range deep - 1 {
+		r = resCon(name, r)
+	}
+	return r
 }
 
 // wantDeepAnywhere is of a part which is first, in the middle or last of what it is of, beside others that are not as deep.
@@ -110,7 +164,7 @@ func wantDeepAnywhere(t *testing.T, r impl.Res) {
 	deep := max(impl.Depth(r)+1, 3)
 	for i := range l {
 		part := slices.Concat(l[1:i+1], l[:1], l[i+1:])
-		text, _ := resTextByHand(resCon("B", part...))
+		text, _, _ := resTextByHand(resCon("B", part...))
 		if got := impl.ResText(resCon("B", part...)); got != text || (text == "") != (deep > 6) {
 			t.Errorf("ResText of B and %+v = %q; want %q, %d deep", part, got, text, deep)
 		}
@@ -170,12 +224,13 @@ func TestResTextFarTooDeepOrTooWide(t *testing.T) {
 	const many = 300000
 	wide := resCon("A", slices.Repeat([]impl.Res{resNum(-1)}, many)...)
 	wantResText(t, resTold{wide, "A" + strings.Repeat(" (-1)", many)})
+	wantResText(t, resTold{resCon("", slices.Repeat([]impl.Res{resCon("")}, many)...), strings.Repeat(" ", many)})
 	// A wide list at each of many places: deeper than is told, and with nothing to tell at the bottom.
 	for range 8 {
 		wide = resCon("A", slices.Repeat([]impl.Res{wide}, many)...)
 	}
 	wantResText(t, resTold{wide, ""})
-	for _, none := range []impl.Res{{}, resNum(1000000000), resCon("")} {
+	for _, none := range []impl.Res{{}, resNum(1000000000), resCon("", impl.Res{})} {
 		wide = resCon("A", append(slices.Repeat([]impl.Res{resNum(1)}, many), none)...)
 		for range 4 {
 			wantResText(t, resTold{wide, ""})
