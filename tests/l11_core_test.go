@@ -412,10 +412,7 @@ func (m *marker) exp(e *impl.Exp) {
 		if m.note(a.Great == writtenName) {
 			a.Great = writtenName
 			m.exp(&a.E)
-			for j := range a.Vars {
-				m.note(a.Vars[j] == writtenName)
-				a.Vars[j] = writtenName
-			}
+			m.names(a.Vars)
 		}
 	}
 }
@@ -425,9 +422,17 @@ func (m *marker) decs(l []impl.Dec) {
 		d := &l[i]
 		if m.note(d.Name == writtenName) {
 			d.Name = writtenName
+			m.names(d.Pars)
 			m.exp(&d.E)
 			m.decs(d.Where)
 		}
+	}
+}
+
+func (m *marker) names(l []string) {
+	for i := range l {
+		m.note(l[i] == writtenName)
+		l[i] = writtenName
 	}
 }
 
