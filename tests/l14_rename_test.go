@@ -667,38 +667,47 @@ func (m *marker) tys(l []impl.Ty) {
 	}
 }
 
-// wantProgKept is of what is refused: the answer is the same, and shares nothing with it; nor do its own lists with each
+// A kept is a program that is not TypeOk, and whether memory holds all of its lists.
+type kept struct {
+	what   string
+	p      impl.Prog
+	isHeld bool
+}
+
+// wantKept is of what is refused: the answer is the same, and shares nothing with it; nor do its own lists with each
 // other, where memory holds them.
-func wantProgKept(t *testing.T, what string, p impl.Prog, isHeld bool) {
+func wantKept(t *testing.T, turn func(p impl.Prog) (impl.Prog, int), l ...kept) {
 	t.Helper()
-	wantRefusedRename(t, what, p, "f", "g", impl.ToForm)
-	got, _ := impl.Rename(p, "f", "g")
-	var m marker
-	m.prog(got)
-	if isHeld && m.again > 0 {
-		t.Errorf("%s: of %d places %d are shared with others", what, m.places, m.again)
-	}
-	if again, _ := impl.Rename(p, "f", "g"); impl.SameProg(p, got) || !impl.SameProg(again, p) {
-		t.Errorf("%s: the program was written into", what)
+	for _, c := range l {
+		got, code := turn(c.p)
+		if code != impl.ToForm || !impl.SameProg(got, c.p) {
+			t.Errorf("%s: the code %d, the same program: %v", c.what, code, impl.SameProg(got, c.p))
+		}
+		var m marker
+		m.prog(got)
+		if c.isHeld && m.again > 0 {
+			t.Errorf("%s: of %d places %d are shared with others", c.what, m.places, m.again)
+		}
+		if again, _ := turn(c.p); impl.SameProg(c.p, got) || !impl.SameProg(again, c.p) {
+			t.Errorf("%s: the program was written into", c.what)
+		}
 	}
 }
 
-func TestRenameOfProgramsFarTooLarge(t *testing.T) {
+func renameToG(p impl.Prog) (impl.Prog, int) { return impl.Rename(p, "f", "g") }
+
+func farTooLarge() []kept {
 	const many = 100000
 	ofDatas := func(l ...impl.Data) impl.Prog { return impl.Prog{Datas: l, Decs: decs(dec("f", num(1)))} }
 	ofExp := func(e impl.Exp) impl.Prog { return impl.Prog{Decs: decs(dec("f", e), dec("main", num(1), "x"))} }
-	wantProgKept(t, "Decs", impl.Prog{Decs: numbered(many)}, true)
-	wantProgKept(t, "Wheres", impl.Prog{Decs: decs(wheres(many))}, true)
-	wantProgKept(t, "a Dec of many Pars", impl.Prog{Decs: decs(dec("f", num(1), make([]string, many)...))}, true)
-	wantProgKept(t, "Datas", ofDatas(make([]impl.Data, many)...), true)
-	wantProgKept(t, "Cons", ofDatas(data("T", make([]impl.Con, many)...)), true)
-	wantProgKept(t, "Args", ofDatas(data("T", con("A", make([]impl.Ty, many)...))), true)
-	wantProgKept(t, "arrows", ofDatas(data("T", con("A", arrows(many), leftArrows(many)))), true)
-	wantProgKept(t, "lambdas", ofExp(chain(many)), true)
-	wantProgKept(t, "parts", ofExp(sized(many)), true)
+	l := []kept{
+		{"Decs", impl.Prog{Decs: numbered(many)}, true}, {"Wheres", impl.Prog{Decs: decs(wheres(many))}, true}, {"a Dec of many Pars", impl.Prog{Decs: decs(dec("f", num(1), make([]string, many)...))}, true},
+		{"Datas", ofDatas(make([]impl.Data, many)...), true}, {"Cons", ofDatas(data("T", make([]impl.Con, many)...)), true}, {"Args", ofDatas(data("T", con("A", make([]impl.Ty, many)...))), true}, {"arrows", ofDatas(data("T", con("A", arrows(many), leftArrows(many)))), true},
+		{"lambdas", ofExp(chain(many)), true}, {"parts", ofExp(sized(many)), true},
+	}
 	for _, c := range twices() {
 		for _, times := range []int{3, 10, 64, 200} {
-			wantProgKept(t, c.what+", "+strconv.Itoa(times)+" times", ofExp(doubled(times, c.of)), times < 20)
+			l = append(l, kept{c.what + ", " + strconv.Itoa(times) + " times", ofExp(doubled(times, c.of)), times < 20})
 		}
 	}
 	for _, times := range []int{1, 2, 10, 15, 64, 200} {
@@ -708,9 +717,12 @@ func TestRenameOfProgramsFarTooLarge(t *testing.T) {
 		}
 		args := []impl.Ty{ty, ty}
 		cons := []impl.Con{con("A", args...), con("B", args...), con("C", args[:1]...)}
-		wantProgKept(t, "arrows, "+strconv.Itoa(times)+" times", ofDatas(data("T", cons...), data("U", cons...), data("V", cons[1:]...)), times < 20)
+		l = append(l, kept{"arrows, " + strconv.Itoa(times) + " times", ofDatas(data("T", cons...), data("U", cons...), data("V", cons[1:]...)), times < 20})
 	}
+	return l
 }
+
+func TestRenameOfProgramsFarTooLarge(t *testing.T) { wantKept(t, renameToG, farTooLarge()...) }
 
 // Lists of a program's types that stand at so many places that no memory holds them all.
 func TestRenameOfDatasThatCannotBeHeld(t *testing.T) {
@@ -731,18 +743,22 @@ func TestRenameOfDatasThatCannotBeHeld(t *testing.T) {
 	}
 }
 
-func TestRenameOfProgramsThatGoRound(t *testing.T) {
+func goingRound() []kept {
 	one := decs(dec("f", num(1)), dec("main", num(1)))
 	tys := make([]impl.Ty, 2)
 	tys[0], tys[1] = impl.Ty{K: impl.TFun, L: tys}, tyInt()
-	wantProgKept(t, "a type", impl.Prog{Datas: []impl.Data{data("T", con("A", tys...), con("B", tys[1:]...))}, Decs: one}, false)
 	wheres := make([]impl.Dec, 2)
 	wheres[0], wheres[1] = impl.Dec{Name: "f", Pars: []string{"x"}, E: vr("f"), Where: wheres}, dec("main", num(1))
-	wantProgKept(t, "a Where", impl.Prog{Decs: wheres}, false)
 	calls := make([]impl.Exp, 2)
 	calls[0], calls[1] = impl.Exp{K: impl.EApp, L: calls}, vr("f")
-	wantProgKept(t, "a call", impl.Prog{Datas: wholeProg().Datas, Decs: decs(dec("f", calls[0]), dec("main", impl.Exp{K: impl.ELam, S: "f", L: calls}))}, false)
+	return []kept{
+		{"a type", impl.Prog{Datas: []impl.Data{data("T", con("A", tys...), con("B", tys[1:]...))}, Decs: one}, false},
+		{"a Where", impl.Prog{Decs: wheres}, false},
+		{"a call", impl.Prog{Datas: wholeProg().Datas, Decs: decs(dec("f", calls[0]), dec("main", impl.Exp{K: impl.ELam, S: "f", L: calls}))}, false},
+	}
 }
+
+func TestRenameOfProgramsThatGoRound(t *testing.T) { wantKept(t, renameToG, goingRound()...) }
 
 // sumOf answers an Exp of just n Exps that is an Int, and has e, which is one, at many places.
 func sumOf(n int, e impl.Exp) impl.Exp {
@@ -778,7 +794,7 @@ func TestRenameAtTheLimits(t *testing.T) {
 				continue
 			}
 			if n > most {
-				wantProgKept(t, strconv.Itoa(n)+" "+what, p, true)
+				wantKept(t, renameToG, kept{strconv.Itoa(n) + " " + what, p, true})
 				continue
 			}
 			seen := turning{kinds: map[int]int{}}
@@ -798,7 +814,7 @@ func TestRenameAtTheLimits(t *testing.T) {
 		} else if impl.TypeOk(p) {
 			checkTurned(t, p, "big", longest, []int{10}, &seen)
 		} else {
-			wantProgKept(t, "too many types", p, true)
+			wantKept(t, renameToG, kept{"too many types", p, true})
 		}
 	}
 }
